@@ -153,11 +153,12 @@ func TestWithoutPower(t *testing.T) {
 
 // All blocks are written over ahead of each raw step of a call in turn: it tells that, or what it must.
 func TestFaultsAtEachStep(t *testing.T) {
+	s := made(t, 128, 0)
+	m := thicket()
+	_, out := s.commit(s.laid(m))
+	image := s.d.Image()
 	for _, c := range needing() {
 		for step, met := 0, true; met; step++ {
-			s := made(t, 128, 0)
-			m := thicket()
-			_, out := s.commit(s.laid(m))
 			x := s.open(out.Table, out.High)
 			var plan []api.Step
 			from := s.d.Ops()
@@ -176,7 +177,8 @@ func TestFaultsAtEachStep(t *testing.T) {
 			if got != want {
 				t.Fatalf("%s, all written over ahead of its raw step %d = %s; want %s", c.brief(), step, got.brief(), want.brief())
 			}
-			step += step / 8
+			s.d.Plan(nil)
+			s.d.Load(image)
 		}
 	}
 }
